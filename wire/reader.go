@@ -10,7 +10,8 @@ import (
 // Reader reads bytes from their beginning on, till a read fails.
 type Reader struct {
 	left []byte
-	err  api.Errno
+	// Fault is the error of the first read that failed. A layer above may find that nothing writes what its reads gave: it tells so here, for no call of the face does.
+	Fault api.Errno
 }
 
 // NewReader makes a Reader of a copy of b, for b is the caller's to change.
@@ -62,17 +63,17 @@ func (r *Reader) Left() int {
 
 // Err answers the error of the first read that failed; OK, if none did.
 func (r *Reader) Err() api.Errno {
-	return r.err
+	return r.Fault
 }
 
 // read runs one read, none behind a failure. Parts of a read may have been taken when it fails: they are laid back.
 func (r *Reader) read(f func()) {
-	if r.err != api.OK {
+	if r.Fault != api.OK {
 		return
 	}
 	ahead := r.left
 	if e := Try(f); e != api.OK {
-		r.left, r.err = ahead, e
+		r.left, r.Fault = ahead, e
 	}
 }
 

@@ -236,6 +236,13 @@ func TestP1_2FirstErrorStays(t *testing.T) {
 	checkEnded(t, "ErrWireBig first", r, api.ErrWireBig, 2)
 }
 
+func TestP1_2FaultFromAbove(t *testing.T) {
+	r := wire.NewReader([]byte{5, 6, 7})
+	r.Byte()
+	r.Fault = api.ErrWireForm
+	checkEnded(t, "a layer above found a fault", r, api.ErrWireForm, 2)
+}
+
 func TestP1_2ReadsInTurn(t *testing.T) {
 	r := wire.NewReader([]byte{0xAC, 0x02, 1, 7, 0, 0, 0, 0, 0, 0, 0, 9, 2, 'a', 'b', 4})
 	checkReader(t, "at first", r, api.OK, 16)
