@@ -12,8 +12,6 @@ import (
 	"quire/ops"
 )
 
-// Of two that go on and together have more than MaxText runes nothing is tested here: the chapter's words and the tests of stage 8 don't say the same.
-
 func TestP8_3Fits(t *testing.T) {
 	a, b := text(3, 5, id(1, 1), id(2, 2), "é\U0001F600"), text(3, 7, id(3, 6), id(2, 2), "c")
 	for _, x := range []struct {
@@ -56,6 +54,41 @@ func TestP8_3Fits(t *testing.T) {
 	} {
 		if got := ops.Fits(x.a, x.b); got != x.want {
 			t.Errorf("Fits, %s: %v", x.what, got)
+		}
+	}
+}
+
+// TestP8_3FitsOfLongTexts: two fit, however many runes they have together; what else P8.3 names is asked of long ones, too.
+func TestP8_3FitsOfLongTexts(t *testing.T) {
+	const m = api.MaxText
+	for _, x := range []struct{ a, b int }{
+		{m - 1, 1}, {1, m - 1}, {m / 2, m / 2}, // as many as one operation holds
+		{m - 1, 2}, {2, m - 1}, {m, 1}, {1, m}, {m/2 + 1, m / 2}, {m, m}, // more
+		{m + 1, 1}, {1, m + 1}, {m + 1, m + 1}, // with one that Check doesn't take
+	} {
+		l := rowOf(id(1, 1), id(2, 2), x.a, x.b)
+		a, b := l[0], l[1]
+		if !ops.Fits(a, b) {
+			t.Errorf("Fits of %d runes and the %d behind them: false", x.a, x.b)
+		}
+		for what, wrong := range map[string]api.Op{
+			"itself":           a,
+			"a clock later":    with(b, func(o *api.Op) { o.Id.Clock++ }),
+			"a clock earlier":  with(b, func(o *api.Op) { o.Id.Clock-- }),
+			"another client":   with(b, func(o *api.Op) { o.Id.Client++ }),
+			"another Left":     with(b, func(o *api.Op) { o.Left.Clock-- }),
+			"another Right":    with(b, func(o *api.Op) { o.Right.Clock++ }),
+			"no Right":         with(b, func(o *api.Op) { o.Right = api.Id{} }),
+			"of another kind":  with(b, func(o *api.Op) { o.Kind = api.OpEmbed }),
+			"one further on":   rowOf(id(1, 1), id(2, 2), x.a, x.b, 1)[2],
+			"no text, nowhere": {},
+		} {
+			if ops.Fits(a, wrong) {
+				t.Errorf("Fits of %d runes and the %d behind them, %s: true", x.a, x.b, what)
+			}
+		}
+		if ops.Fits(b, a) {
+			t.Errorf("Fits of the %d runes behind and the %d ahead of them: true", x.b, x.a)
 		}
 	}
 }

@@ -337,6 +337,35 @@ func drawnList(longest int, next func(int) int) []api.Op {
 	return l
 }
 
+func TestP8_3FitsByTheModel(t *testing.T) {
+	x := rand.New(rand.NewSource(38))
+	fit, long := 0, 0
+	for i := range 300 {
+		longest := 12
+		if i%10 == 0 {
+			longest = 2 * api.MaxText
+		}
+		l := slices.DeleteFunc(drawnList(longest, x.Intn), func(o api.Op) bool { return !isRight(o) })
+		for _, a := range l {
+			for _, b := range l {
+				want := goOn(a, b)
+				if got := ops.Fits(a, b); got != want {
+					t.Errorf("P8.3: Fits %v: %v", told(a, b), got)
+				}
+				if want {
+					fit++
+				}
+				if want && clocks(a)+clocks(b) > api.MaxText {
+					long++
+				}
+			}
+		}
+	}
+	if fit < 300 || long < 20 {
+		t.Errorf("of the pairs drawn %d fitted, %d of them of more than MaxText runes", fit, long)
+	}
+}
+
 func TestP8_3JoinByTheModel(t *testing.T) {
 	x := rand.New(rand.NewSource(83))
 	for range 1500 {
