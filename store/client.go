@@ -16,7 +16,7 @@ type client struct {
 // waiter: an operation that waits, or a piece of one.
 type waiter struct {
 	op  api.Op
-	own api.Range // its ids, so that its runes needn't be counted again
+	own api.Range // those of its ids that wait: all, or its end, where what is ahead has become known; it is cut to them only when it is taken, lest its runes be counted each time that one becomes known
 }
 
 func (c *client) span() (from, to uint64) { return c.id, c.id + 1 }
@@ -24,6 +24,13 @@ func (c *client) span() (from, to uint64) { return c.id, c.id + 1 }
 func (w *waiter) span() (from, to uint64) { return w.own.From, w.own.To }
 
 func (w *waiter) clocks() int { return int(w.own.To - w.own.From) }
+
+// rest answers what of its operation waits.
+func (w *waiter) rest() api.Op {
+	first := w.op.Id.Clock
+	o, _ := ops.Cut(w.op, int(w.own.From-first), int(w.own.To-first))
+	return o
+}
 
 // known answers how many clocks are.
 func (c *client) known() uint64 {
@@ -42,7 +49,7 @@ func (c *client) isEmpty() bool {
 // isReady answers whether one waits with no unknown clock ahead of it: if one does, the first one that waits does.
 func (c *client) isReady() bool {
 	w, ok := c.waits.first()
-	return ok && w.own.From <= c.known()+1
+	return ok && w.own.From == c.known()+1
 }
 
 // news answers what of o isn't known; none, if all is, or if clocks ahead of o aren't.
@@ -62,6 +69,29 @@ func (c *client) learn(o api.Op) {
 		return
 	}
 	c.rows[last].add(o.Text)
+}
+
+// release lets wait no more what is known, and answers how many clocks that has.
+func (c *client) release() int {
+	clocks := 0
+	next := c.known() + 1
+	for w, ok := c.waits.first(); ok && w.own.From < next; w, ok = c.waits.first() {
+		if w.own.To > next {
+			clocks += int(next - w.own.From)
+			w.own.From = next
+			break
+		}
+		clocks += w.clocks()
+		c.waits.drop(w.own.From)
+	}
+	return clocks
+}
+
+// take answers the first one that waits: it waits no more. There must be one.
+func (c *client) take() *waiter {
+	w, _ := c.waits.first()
+	c.waits.drop(w.own.From)
+	return w
 }
 
 func (c *client) get(clock uint64) (api.Op, bool) {

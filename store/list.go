@@ -98,12 +98,12 @@ func (l *list[T]) split(i int) {
 	l.leaves[i] = slices.Delete(some, half, len(some))
 }
 
-// takeFirst answers the first one, which isn't there any more. There must be one.
-func (l *list[T]) takeFirst() T {
-	x := l.leaves[0][0]
-	l.leaves[0] = slices.Delete(l.leaves[0], 0, 1)
-	if len(l.leaves[0]) == 0 {
-		l.leaves = slices.Delete(l.leaves, 0, 1)
+// drop takes away the one that has n. There must be one.
+func (l *list[T]) drop(n uint64) {
+	i := seek(l.leaves, n)
+	at := seek(l.leaves[i], n)
+	l.leaves[i] = slices.Delete(l.leaves[i], at, at+1)
+	if len(l.leaves[i]) == 0 {
+		l.leaves = slices.Delete(l.leaves, i, i+1)
 	}
-	return x
 }

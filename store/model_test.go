@@ -185,10 +185,13 @@ func (m *model) wait(o api.Op) {
 	}
 }
 
+// waiting: the clocks of what waits, but for those that have become known: these wait no more.
 func (m *model) waiting() int {
 	n := 0
 	for _, o := range m.waits {
-		n += ops.Len(o)
+		for _, p := range m.unknown(o) {
+			n += ops.Len(p)
+		}
 	}
 	return n
 }
@@ -229,6 +232,7 @@ func (p pair) add(o api.Op) []api.Op {
 	p.Helper()
 	got := p.s.Add(o)
 	checkOps(p.T, "P10.1: Add", got, p.m.add(o)...)
+	p.checkCounts()
 	return got
 }
 

@@ -191,36 +191,163 @@ func TestP10_2NextInterleaved(t *testing.T) {
 	checkNoNext(t, "none is left", s)
 }
 
-// TestP10_2NextOfWhatBecameKnown: an operation waits till Next takes it; what of it has become known meanwhile isn't brought.
+// TestP10_2WaitingBehindAdd: what waits and is made known waits no more, whichever part of it that is; behind each Add Waiting tells so, and Next brings the rest.
+func TestP10_2WaitingBehindAdd(t *testing.T) {
+	for _, x := range []struct {
+		what        string
+		waits, adds []api.Op
+		waiting     []int // ahead, and behind each Add
+		rest        []api.Op
+	}{
+		{"wholly", []api.Op{at(3, 1, "a")}, []api.Op{at(3, 1, "a")}, []int{1, 0}, nil},
+		{"wholly, an embed", []api.Op{embed(3, 1)}, []api.Op{embed(3, 1)}, []int{1, 0}, nil},
+		{"wholly, a mark", []api.Op{mark(3, 1)}, []api.Op{mark(3, 1)}, []int{1, 0}, nil},
+		{"wholly, a set", []api.Op{set(3, 1)}, []api.Op{set(3, 1)}, []int{1, 0}, nil},
+		{"wholly, with more ahead", []api.Op{at(3, 3, "c")}, []api.Op{at(3, 1, "abc")}, []int{1, 0}, nil},
+		{"wholly, with more behind", []api.Op{at(3, 1, "a")}, []api.Op{at(3, 1, "abc")}, []int{1, 0}, nil},
+		{"wholly, with more around", []api.Op{at(3, 2, "b")}, []api.Op{at(3, 1, "abc")}, []int{1, 0}, nil},
+		{"wholly, in two", []api.Op{at(3, 1, "ß€")}, []api.Op{at(3, 1, "ß"), at(3, 2, "€")}, []int{2, 1, 0}, nil},
+		{"in part, another waits", []api.Op{at(1, 2, "bcd"), at(2, 5, "xy")}, []api.Op{at(1, 1, "ab")}, []int{5, 4}, []api.Op{at(1, 3, "cd")}},
+		{"in part, by one and one", []api.Op{at(1, 2, "ß€\U0001F600")}, []api.Op{at(1, 1, "a"), at(1, 2, "ß"), at(1, 3, "€")}, []int{3, 3, 2, 1}, []api.Op{at(1, 4, "\U0001F600")}},
+		{"in part, of what has a Right", []api.Op{text(1, 1, id(7, 7), id(7, 8), "ß€\U0001F600")}, []api.Op{text(1, 1, id(7, 7), id(7, 8), "ß")}, []int{3, 2}, []api.Op{text(1, 2, id(1, 1), id(7, 8), "€\U0001F600")}},
+		{"up to what waits", []api.Op{at(1, 3, "cd")}, []api.Op{at(1, 1, "ab")}, []int{2, 2}, []api.Op{at(1, 3, "cd")}},
+		{"not up to what waits", []api.Op{at(1, 4, "d")}, []api.Op{at(1, 1, "ab")}, []int{1, 1}, nil},
+		{"several wholly", []api.Op{at(1, 6, "f"), at(1, 2, "b"), at(1, 4, "d")}, []api.Op{at(1, 1, "abcdef")}, []int{3, 0}, nil},
+		{"several wholly, side by side", []api.Op{at(1, 1, "ab"), at(1, 3, "c"), at(1, 4, "def")}, []api.Op{at(1, 1, "abcdef")}, []int{6, 0}, nil},
+		{"several, the last one in part", []api.Op{at(1, 2, "b"), at(1, 4, "d"), at(1, 6, "fgh")}, []api.Op{at(1, 1, "abcdef")}, []int{5, 2}, []api.Op{at(1, 7, "gh")}},
+		{"several, the last one not", []api.Op{at(1, 2, "b"), at(1, 4, "d"), at(1, 8, "h")}, []api.Op{at(1, 1, "abcdef")}, []int{3, 1}, nil},
+		{"several, bit by bit", []api.Op{at(1, 2, "bc"), at(1, 5, "ef")}, []api.Op{at(1, 1, "ab"), at(1, 3, "cd"), at(1, 5, "e"), at(1, 6, "f")}, []int{4, 3, 2, 1, 0}, nil},
+		{"several kinds", []api.Op{set(1, 4), embed(1, 2), mark(1, 3), at(1, 5, "ef")}, []api.Op{at(1, 1, "a"), embed(1, 2), mark(1, 3), set(1, 4), at(1, 5, "e")}, []int{5, 5, 4, 3, 2, 1}, []api.Op{at(1, 6, "f")}},
+		{"several clients", []api.Op{at(1, 1, "ab"), at(2, 1, "ab"), at(3, 1, "ab"), at(top, 1, "ab")}, []api.Op{at(2, 1, "ab"), at(top, 1, "abc"), at(1, 1, "a"), at(1, 2, "b")}, []int{8, 6, 4, 3, 2}, []api.Op{at(3, 1, "ab")}},
+		{"what has come to wait twice", []api.Op{at(1, 2, "bc"), at(1, 3, "cd"), at(1, 2, "bcd")}, []api.Op{at(1, 1, "abc")}, []int{3, 1}, []api.Op{at(1, 4, "d")}},
+		{"an Add behind a gap", []api.Op{at(1, 2, "b")}, []api.Op{at(1, 2, "b"), at(1, 3, "c")}, []int{1, 1, 1}, nil},
+		{"an Add of another client", []api.Op{at(1, 1, "ab")}, []api.Op{at(2, 1, "ab")}, []int{2, 2}, []api.Op{at(1, 1, "ab")}},
+		{"an Add once more", []api.Op{at(1, 2, "bc")}, []api.Op{at(1, 1, "ab"), at(1, 1, "ab"), at(1, 2, "b")}, []int{2, 1, 1, 1}, []api.Op{at(1, 3, "c")}},
+		{"Adds of what Check refuses", []api.Op{at(1, 1, "ab")}, wrongOps()[:3], []int{2, 2, 2, 2}, []api.Op{at(1, 1, "ab")}},
+		{"as long as can be", []api.Op{at(1, 1, strings.Repeat("€", full))}, []api.Op{at(1, 1, strings.Repeat("€", full-1)), at(1, full, "€")}, []int{full, 1, 0}, nil},
+	} {
+		s := store.New()
+		for _, o := range x.waits {
+			s.Wait(o)
+		}
+		checkWaiting(t, x.what, s, x.waiting[0])
+		for i, o := range x.adds {
+			s.Add(o)
+			checkWaiting(t, fmt.Sprintf("%s, Add %d", x.what, i), s, x.waiting[i+1])
+		}
+		left := x.waiting[len(x.adds)]
+		for _, o := range x.adds { // what is known says nothing
+			if ops.Range(o).To-1 <= knownOf(s, o.Id.Client) {
+				s.Wait(o)
+			}
+			checkWaiting(t, x.what+", waits anew", s, left)
+		}
+		for _, o := range x.rest {
+			checkNext(t, x.what, s, o)
+			left -= ops.Len(o)
+			checkWaiting(t, x.what+", Next", s, left)
+		}
+		checkNoNext(t, x.what, s)
+		checkWaiting(t, x.what+", no Next", s, left)
+	}
+}
+
+func knownOf(s *store.Store, client uint64) uint64 {
+	for _, c := range s.Known() {
+		if c.Client == client {
+			return c.Clock
+		}
+	}
+	return 0
+}
+
+// TestP10_2NextOfWhatBecameKnown: what has become known of what waits isn't brought; the next one is.
 func TestP10_2NextOfWhatBecameKnown(t *testing.T) {
 	s := store.New()
 	s.Wait(at(1, 2, "ß€\U0001F600"))
 	s.Wait(at(4, 1, "z"))
 	s.Add(at(1, 1, "aß€"))
-	checkWaiting(t, "known in part", s, 4)
+	checkWaiting(t, "known in part", s, 2)
 	checkNext(t, "known in part", s, at(1, 4, "\U0001F600"))
 	checkWaiting(t, "known in part", s, 1)
 
 	s.Wait(at(1, 5, "xy"))
 	s.Wait(at(1, 7, "z"))
 	s.Wait(embed(2, 1))
+	checkWaiting(t, "more waits", s, 5)
 	s.Add(at(1, 4, "\U0001F600xyz"))
+	checkWaiting(t, "wholly known", s, 2)
 	checkOps(t, "Add", s.Add(embed(2, 1)), embed(2, 1))
-	checkWaiting(t, "wholly known", s, 5)
+	checkWaiting(t, "wholly known", s, 1)
 	checkNext(t, "wholly known: the next one is another client's", s, at(4, 1, "z"))
 	checkWaiting(t, "wholly known", s, 0)
 
 	s.Wait(at(1, 9, "q"))
 	s.Add(at(1, 8, "pqr"))
-	checkWaiting(t, "wholly known, nothing behind", s, 1)
+	checkWaiting(t, "wholly known, nothing behind", s, 0)
 	checkNoNext(t, "wholly known, nothing behind", s)
 	checkWaiting(t, "wholly known, nothing behind", s, 0)
 
 	s.Wait(at(1, 11, "s"))
 	s.Wait(at(1, 12, "tu"))
 	s.Add(at(1, 11, "st"))
+	checkWaiting(t, "the next one is the same client's", s, 1)
 	checkNext(t, "the next one is the same client's", s, at(1, 13, "u"))
 	checkWaiting(t, "the next one is the same client's", s, 0)
+}
+
+// TestP10_2WaitingBehindNext: what Next took doesn't wait, so that an Add of it lowers nothing; what of it came to wait once more meanwhile does.
+func TestP10_2WaitingBehindNext(t *testing.T) {
+	s := store.New()
+	s.Wait(at(1, 1, "abc"))
+	s.Wait(at(1, 6, "f"))
+	checkNext(t, "the first", s, at(1, 1, "abc"))
+	checkWaiting(t, "taken", s, 1)
+	s.Wait(at(1, 2, "b"))
+	checkWaiting(t, "once more", s, 2)
+	checkNoNext(t, "clock 1 isn't known", s)
+	s.Add(at(1, 1, "a"))
+	checkWaiting(t, "clock 1 is known", s, 2)
+	s.Add(at(1, 2, "b"))
+	checkWaiting(t, "clock 2 is known", s, 1)
+	s.Add(at(1, 1, "abc"))
+	checkWaiting(t, "clock 3 is known", s, 1)
+	checkNoNext(t, "clock 5 isn't known", s)
+	s.Add(at(1, 4, "de"))
+	checkNext(t, "clock 5 is known", s, at(1, 6, "f"))
+	checkWaiting(t, "all taken", s, 0)
+	s.Add(at(1, 6, "f"))
+	checkWaiting(t, "all known", s, 0)
+}
+
+// TestP10_2ReadyNoMore: of many clients of whom one waits, those whose one has become known, by whichever order, aren't told by Next.
+func TestP10_2ReadyNoMore(t *testing.T) {
+	const n = 1000
+	for _, left := range []uint64{1, 2, 3, 64, 65, n} { // each so many-th is left
+		s := store.New()
+		for client := uint64(1); client <= n; client++ {
+			s.Wait(at(client, 1, "a"))
+		}
+		waiting := n
+		for i := range uint64(n) {
+			if client := i*7%n + 1; client%left > 0 {
+				s.Add(at(client, 1, "ab"))
+				waiting--
+			}
+			checkWaiting(t, "some are known", s, waiting)
+		}
+		for client := left; client <= n; client += left {
+			checkNext(t, "those left", s, at(client, 1, "a"))
+		}
+		checkNoNext(t, "all taken", s)
+		checkWaiting(t, "all taken", s, 0)
+		for client := uint64(1); client <= n; client++ {
+			s.Wait(at(client, 3, "c"))
+		}
+		if o, ok := s.Next(); ok != (left > 1) || ok && o.Id != id(1, 3) {
+			t.Fatalf("ready again: %v, %v", told(o), ok)
+		}
+	}
 }
 
 // TestP10_2NextMakesNothingKnown: what Next told may come to wait again.
@@ -335,6 +462,24 @@ func TestP10_3ManyWait(t *testing.T) {
 		if l := s.Known(); len(l) != n || l[0] != (api.Clock{Client: 1, Clock: 1}) || l[n-1] != (api.Clock{Client: n, Clock: 1}) {
 			t.Fatalf("%s: %d clients are known", what, len(l))
 		}
+	}
+}
+
+// TestP10_2ManyBecomeKnown: of a row that waits in many pieces, or in few, Add makes known few, or many, at a time.
+func TestP10_2ManyBecomeKnown(t *testing.T) {
+	runes := longRow(3*full + 5)
+	for _, x := range []struct{ waits, adds int }{{1, full}, {1, 7}, {7, 5}, {full, 1}, {full, full - 1}} {
+		s := store.New()
+		for to := len(runes); to > 0; to -= x.waits {
+			s.Wait(rowPiece(runes, max(0, to-x.waits), to))
+		}
+		for from := 0; from < len(runes); from += x.adds {
+			checkWaiting(t, fmt.Sprint(x), s, len(runes)-from)
+			s.Add(rowPiece(runes, from, min(from+x.adds, len(runes))))
+		}
+		checkWaiting(t, fmt.Sprint(x), s, 0)
+		checkNoNext(t, fmt.Sprint(x), s)
+		checkOps(t, fmt.Sprint(x), s.Since(nil), rowFrom(runes, 0)...)
 	}
 }
 
