@@ -96,9 +96,10 @@ func Read(b []byte) (u api.Update, e api.Errno) {
 	must(len(b) <= api.MaxBytes)
 	r := reading{wire.NewReader(b)}
 	told := r.update()
-	clean := Clean(told)
-	// Each update that is clean has bytes of its own: what isn't clean was written by nobody, wrong numbers, wrong texts and wrong order alike.
-	must(r.in.Left() == 0 && alike(told, clean) && fewest(clean.Turns) <= api.MaxOps)
+	from := api.Update{Ops: sources(told.Ops), Turns: told.Turns}
+	clean := Clean(from)
+	// Each update that is clean has bytes of its own: what is clean of nothing was written by nobody, wrong numbers, wrong texts and wrong order alike.
+	must(r.in.Left() == 0 && alike(told, clean) && len(from.Ops) <= api.MaxOps && fewest(clean.Turns) <= api.MaxOps)
 	return clean, api.OK
 }
 

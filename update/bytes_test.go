@@ -22,8 +22,8 @@ func checkWritten(t *testing.T, what string, u api.Update, want []byte) {
 	if e != api.OK || !exact(got, modelClean(u)) {
 		t.Errorf("%s: read back: %v, %v", what, short(got), e)
 	}
-	if !same(t, got, u) {
-		t.Errorf("%s: read back, it isn't the same", what)
+	if same(t, got, u) != modelSame(got, u) {
+		t.Errorf("%s: read back, Same is %t", what, !modelSame(got, u))
 	}
 }
 
@@ -333,7 +333,10 @@ func TestP16_2ReadRefuses(t *testing.T) {
 		{"a Left's client alone", opsOf(1, kText, 1, 1, 5, 0, 0, 0, "a")},
 		{"a Right's clock alone", opsOf(1, kText, 1, 1, 0, 0, 0, 5, "a")},
 		{"a Left above MaxId", opsOf(1, kEmbed, 1, 1, 5, over, 0, 0, vNull)},
-		{"a Left that is its own", opsOf(1, kText, 1, 1, 1, 2, 0, 0, "ab")},
+		{"a Left that is its own", opsOf(1, kText, 1, 1, 1, 1, 0, 0, "ab")},
+		{"a Left that is its own, of one rune", opsOf(1, kText, 1, 1, 1, 1, 0, 0, "a")},
+		{"a Right that is its own", opsOf(1, kText, 1, 1, 0, 0, 1, 2, "ab")},
+		{"an embed's Left that is its own", opsOf(1, kEmbed, 1, 1, 1, 1, 0, 0, vNull)},
 		{"an empty text", opsOf(1, kText, 1, 1, 0, 0, 0, 0, "")},
 		{"a text of MaxText + 1 runes", opsOf(1, kText, 1, 1, 0, 0, 0, 0, strings.Repeat("x", full+1))},
 		{"a text that isn't right", opsOf(1, kText, 1, 1, 0, 0, 0, 0, "a\xFF")},
@@ -396,7 +399,7 @@ func TestP16_2ReadRefuses(t *testing.T) {
 		{"a wrong turn behind right operations", raw(byte(0x51), 1, a, 1, 1, 1, 2, 0)},
 	} {
 		checkRefused(t, x.what, x.b)
-		if _, e := modelRead(x.b); e == api.OK {
+		if _, _, e := modelRead(x.b); e == api.OK {
 			t.Errorf("%s: the model reads it", x.what)
 		}
 	}

@@ -201,8 +201,8 @@ func (r *modelReader) op() api.Op {
 	return o
 }
 
-// modelRead: what has b's bytes once it is read anyhow, made clean, and written.
-func modelRead(b []byte) (api.Update, api.Errno) {
+// modelRead: what has b's bytes once it is read anyhow, if it is what is written of some update; and the fewest operations of such a one.
+func modelRead(b []byte) (api.Update, []api.Op, api.Errno) {
 	r := &modelReader{left: b}
 	var u api.Update
 	r.take(1)
@@ -212,11 +212,90 @@ func modelRead(b []byte) (api.Update, api.Errno) {
 	for n := r.uint(); n > 0 && !r.broken; n-- {
 		u.Turns = append(u.Turns, turn(r.uint(), r.uint(), r.uint(), r.uint()))
 	}
-	u = modelClean(u)
-	if len(b) > api.MaxBytes || len(u.Ops) > api.MaxOps || modelFewest(u.Turns) > api.MaxOps || !bytes.Equal(modelBytes(u), b) {
-		return api.Update{}, api.ErrUpdateForm
+	from, found := modelSources(u.Ops)
+	u = modelClean(api.Update{Ops: from, Turns: u.Turns})
+	if !found || len(b) > api.MaxBytes || len(from) > api.MaxOps || modelFewest(u.Turns) > api.MaxOps || !bytes.Equal(modelBytes(u), b) {
+		return api.Update{}, nil, api.ErrUpdateForm
 	}
-	return u, api.OK
+	return u, from, api.OK
+}
+
+// modelSources: the fewest right operations whose Join l is, and whether there are any.
+func modelSources(l []api.Op) ([]api.Op, bool) {
+	var out []api.Op
+	for len(l) > 0 {
+		n := 1
+		for n < len(l) && l[n].Id.Client == l[0].Id.Client {
+			n++
+		}
+		from, found := modelSourcesOfOne(l[:n])
+		if !found || n < len(l) && l[n].Id.Client < l[0].Id.Client {
+			return nil, false
+		}
+		out = append(out, from...)
+		l = l[n:]
+	}
+	return out, true
+}
+
+// modelSourcesOfOne: the same of one client's; it tries each choice of those that may be pieces of a row ahead.
+func modelSourcesOfOne(l []api.Op) ([]api.Op, bool) {
+	var links [][2]int // places of l, the second one of which may be the piece of a row behind the first one
+	for i, a := range l {
+		for k := i + 1; ops.Len(a) == full && k < len(l); k++ {
+			if ops.Fits(a, l[k]) {
+				links = append(links, [2]int{i, k})
+			}
+		}
+	}
+	if len(links) > 12 {
+		panic("too many choices for the model")
+	}
+	var best []api.Op
+	found := false
+	for choice := range 1 << len(links) {
+		from := modelRows(l, links, choice)
+		if slices.EqualFunc(ops.Join(from), l, ops.Same) && (!found || len(from) < len(best)) {
+			best, found = from, true
+		}
+	}
+	return best, found
+}
+
+// modelRows: the operations of all rows, if those links hold whose bits choice has.
+func modelRows(l []api.Op, links [][2]int, choice int) []api.Op {
+	behind, inner := make([]int, len(l)), make([]bool, len(l))
+	for n, x := range links {
+		if choice>>n&1 == 1 {
+			behind[x[0]], inner[x[1]] = x[1], true
+		}
+	}
+	var out []api.Op
+	for i, o := range l {
+		if inner[i] {
+			continue
+		}
+		for at := behind[i]; at > 0; at = behind[at] {
+			o.Text += l[at].Text
+		}
+		out = append(out, modelCut(o)...)
+	}
+	return out
+}
+
+// modelCut: a row's runes, from the last one back as many at once as may be, but none that name an id of their own.
+func modelCut(o api.Op) []api.Op {
+	var out []api.Op
+	for n := ops.Len(o); n > full; n = ops.Len(o) {
+		last, _ := ops.Cut(o, n-full, n)
+		o, _ = ops.Cut(o, 0, n-full)
+		out = append(out, last)
+	}
+	if last, some := ops.Cut(o, 1, ops.Len(o)); some && ops.Check(o) != api.OK {
+		o, _ = ops.Cut(o, 0, 1)
+		out = append(out, last)
+	}
+	return append(out, o)
 }
 
 // modelFewest: how many turns tell what these tell at least: one over each stretch of ids without gaps whose turns are that or more, if some are just that.
@@ -382,8 +461,8 @@ func checkForm(t *testing.T, u api.Update) {
 	if got := empty(t, u); got != (len(want.Ops)+len(want.Turns) == 0) {
 		t.Fatalf("P16.1: Empty of %v: %t", short(u), got)
 	}
-	if !same(t, u, want) || !same(t, u, u) {
-		t.Fatalf("P16.1: %v is not the same as itself, clean: %v", short(u), short(want))
+	if same(t, u, want) != modelSame(u, want) || !same(t, u, u) {
+		t.Fatalf("P16.1: Same of %v, and clean: %v: %t", short(u), short(want), !modelSame(u, want))
 	}
 	b, e := write(t, u)
 	model, errno := modelWrite(u)
@@ -411,17 +490,17 @@ func checkRefused(t *testing.T, what string, b []byte) {
 	}
 }
 
-// checkBytes: Read of any bytes, by the model.
+// checkBytes: Read of any bytes, by the model. What is read must be what Write wrote of some update.
 func checkBytes(t *testing.T, b []byte) {
 	t.Helper()
-	want, errno := modelRead(b)
+	want, from, errno := modelRead(b)
 	if errno != api.OK {
 		checkRefused(t, "by the model", b)
 		return
 	}
 	checkRead(t, b, want)
-	if again, e := write(t, want); !bytes.Equal(again, b) || e != api.OK {
-		t.Fatalf("P16.2: Write of what was read of %x: %x, %v", b, again, e)
+	if again, e := write(t, up(from...)); e != api.OK || !bytes.Equal(again, modelBytes(up(want.Ops...))) {
+		t.Fatalf("P16.2: Write of what %x is of: %x, %v", b, again, e)
 	}
 }
 
