@@ -1,11 +1,13 @@
 package doc_test
 
 import (
+	"slices"
 	"strings"
 	"testing"
 
 	"quire/api"
 	"quire/doc"
+	"quire/ops"
 )
 
 func TestP13_4Units(t *testing.T) {
@@ -184,5 +186,25 @@ func TestP13_4CopiesThatBothGoOn(t *testing.T) {
 	sameAll(t, "the other", allOf(c), allOf(of(t, append(ground[:len(ground):len(ground)], two, last)...)))
 	if !d.Void(id(2, 4)) || c.Void(id(2, 4)) {
 		t.Error("void ones are shared")
+	}
+}
+
+// TestP13_4CopyOfNamesThatBecameItsOwn: texts that name ids of their own client's further on, which Join makes one with what they name; such a one alone ops.Check refuses.
+func TestP13_4CopyOfNamesThatBecameItsOwn(t *testing.T) {
+	for _, l := range [][]api.Op{
+		{text(id(1, 1), id(1, 2), none, "a"), at(1, 2, "b")},
+		{at(1, 1, "xy"), text(id(1, 3), id(1, 5), none, "ab"), at(1, 5, "cde"), embed(id(1, 8), id(1, 7), none, null), at(1, 9, "f")},
+		{text(id(1, 1), id(1, full), none, "a"), at(1, 2, strings.Repeat("b", full)), at(2, 1, "z")},
+	} {
+		d := of(t, up(l...))
+		if !slices.ContainsFunc(d.Ops(), func(o api.Op) bool { return ops.Check(o) != api.OK }) {
+			t.Errorf("the test's own: %v", d.Ops())
+		}
+		c := d.Copy()
+		sameAll(t, "a copy", allOf(c), allOf(d))
+		more := up(at(1, 10, "more"), at(1, full+2, "yet more"))
+		tell(t, d, more)
+		tell(t, c, more)
+		sameAll(t, "a copy that goes on", allOf(c), allOf(d))
 	}
 }

@@ -87,11 +87,11 @@ func halves(u api.Update) (ahead, behind api.Update, some bool) {
 		return api.Update{Ops: u.Ops[:ops/2]}, api.Update{Ops: u.Ops[ops/2:]}, true
 	case turns > 1:
 		return api.Update{Turns: u.Turns[:turns/2]}, api.Update{Turns: u.Turns[turns/2:]}, true
-	case turns == 1:
-		return u, api.Update{}, false
+	case ops == 1:
+		first, second, some := cut(u.Ops[0], utf8.RuneCountInString(u.Ops[0].Text)/2)
+		return api.Update{Ops: []api.Op{first}}, api.Update{Ops: []api.Op{second}}, some
 	}
-	first, second, some := cut(u.Ops[0], utf8.RuneCountInString(u.Ops[0].Text)/2)
-	return api.Update{Ops: []api.Op{first}}, api.Update{Ops: []api.Op{second}}, some
+	return u, api.Update{}, false
 }
 
 // cut answers the first n runes of o and those behind them, and whether there are both; what is no text has none.
